@@ -6,35 +6,8 @@ import (
 	"testing"
 
 	"inkhorn/api"
+	"inkhorn/samples"
 )
-
-// texts tells all texts of at most most bytes out of an alphabet.
-func texts(alphabet string, most int) []string {
-	all := []string{""}
-	for from, n := 0, 0; n < most; n++ {
-		upTo := len(all)
-		for ; from < upTo; from++ {
-			for i := range len(alphabet) {
-				all = append(all, all[from]+alphabet[i:i+1])
-			}
-		}
-	}
-	return all
-}
-
-// lists tells all lists of at most most lines out of some.
-func lists(of []string, most int) [][]string {
-	all := [][]string{nil}
-	for from, n := 0, 0; n < most; n++ {
-		upTo := len(all)
-		for ; from < upTo; from++ {
-			for _, line := range of {
-				all = append(all, append(slices.Clone(all[from]), line))
-			}
-		}
-	}
-	return all
-}
 
 // slowSplit says byte by byte what the document says of a text's lines.
 func slowSplit(text string) (l []string, ended bool) {
@@ -85,7 +58,7 @@ func TestSplit(t *testing.T) {
 
 // P1.1
 func TestSplitOfAllShortTexts(t *testing.T) {
-	for _, text := range texts("a\n\r\x00", 6) {
+	for _, text := range samples.Texts("a\n\r\x00", 6) {
 		l, ended := Split(text)
 		if wantL, want := slowSplit(text); !slices.Equal(l, wantL) || ended != want {
 			t.Errorf("Split(%q): %q, %v", text, l, ended)
@@ -193,7 +166,7 @@ func TestSame(t *testing.T) {
 
 // P1.2
 func TestSameOfAllShortLists(t *testing.T) {
-	all := lists([]string{"", "a", "b"}, 3)
+	all := samples.Lists([]string{"", "a", "b"}, 3)
 	for i, a := range all {
 		for j, b := range all {
 			if got := Same(a, slices.Clone(b)); got != (i == j) {
@@ -205,7 +178,7 @@ func TestSameOfAllShortLists(t *testing.T) {
 
 // P1.3
 func TestWhatIsJoinedIsSplit(t *testing.T) {
-	for _, want := range lists([]string{"", "a", "b\r", "\xff\x00"}, 5) {
+	for _, want := range samples.Lists([]string{"", "a", "b\r", "\xff\x00"}, 5) {
 		if l, ended := Split(Join(want)); !Same(l, want) || !ended {
 			t.Errorf("Split of Join(%q): %q, %v", want, l, ended)
 		}
@@ -214,7 +187,7 @@ func TestWhatIsJoinedIsSplit(t *testing.T) {
 
 // P1.3
 func TestWhatIsSplitIsJoined(t *testing.T) {
-	for _, text := range texts("a\n\r\x00", 6) {
+	for _, text := range samples.Texts("a\n\r\x00", 6) {
 		l, ended := Split(text)
 		s := Join(l)
 		if !ended {
