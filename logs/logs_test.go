@@ -516,7 +516,7 @@ func TestRecoverOfWrongBytes(t *testing.T) {
 		framed(t, put("a")), framed(t, "x"+put("a")), framed(t, "bb"+put("a")), framed(t, " "+good),
 		framed(t, goodChange), framed(t, goodChange, good),
 		framed(t, good+"x"), framed(t, good+"0:"), framed(t, "b01:1:a"), framed(t, good[:len(good)-1]),
-		framed(t, base("a\nb")), framed(t, base("\n")), framed(t, base(tooLong)), framed(t, base(make([]string, 2001)...)),
+		framed(t, base("a\nb")), framed(t, base("\n")), framed(t, base("a", "\n")), framed(t, base(tooLong, "b\n")), framed(t, base(append(make([]string, 2001), "\n")...)),
 		framed(t, good)[1:], "x" + framed(t, good), framed(t, good)[:len(good)],
 		framed(t, good, ""), framed(t, good, "c"), framed(t, good, "c0:"), framed(t, good, good), framed(t, good, base()),
 		framed(t, good, "C"+put(splice)), framed(t, good, put(splice)), framed(t, good, goodChange+"x"), framed(t, good, goodChange+"0:"),
@@ -534,6 +534,46 @@ func TestRecoverOfWrongBytes(t *testing.T) {
 			t.Errorf("%d: %.200q: %.200q, %d, %d", i, s, l, n, e)
 		}
 		checkFiles(t, f, "log", s, "log+", framed(t, good))
+	}
+}
+
+// P18.1, P18.3, P18.4: a journal may begin with longer lines, or more, than a buffer takes; no change leads on from these.
+func TestRecoverOfALongBeginning(t *testing.T) {
+	for i, l := range [][]string{
+		long(1, 1000), long(1, 1001), append(long(1, 1001), "a"), {"a", strings.Repeat("x", 1001)}, long(3, 5000),
+		long(2000, 1), long(2001, 1), make([]string, 2001), long(5000, 3), long(2001, 100),
+	} {
+		x, f := begun(t, l...)
+		checkLines(t, f, 0, l...)
+		checkErr(t, "Add of nothing", x.Add(nil), api.OK)
+		checkErr(t, "Sync", x.Sync(), api.OK)
+		crash(t, f)
+		checkLines(t, f, 0, l...)
+		got, _, _ := Recover(f)
+		got[0] = "spoilt"
+		checkLines(t, f, 0, l...)
+		next := framed(t, change(ins(0)))
+		checkErr(t, "Append of a torn change", f.Append("log", next[:len(next)-1]), api.OK)
+		checkLines(t, f, 0, l...)
+		checkErr(t, "Append of its end", f.Append("log", next[len(next)-1:]), api.OK)
+		if may := i == 0 || i == 5; may {
+			checkLines(t, f, 1, l...)
+		} else {
+			checkLost(t, f, api.ErrBroke)
+		}
+	}
+}
+
+// P18.3: not even one that takes away what is too much.
+func TestChangesOfALongBeginning(t *testing.T) {
+	for _, l := range [][]string{long(1, 1001), long(2001, 1)} {
+		for _, c := range [][]api.Splice{{del(0, 1)}, {ins(0, "x")}, {del(0, len(l))}, {{}}, {del(0, 1), ins(0, "x")}} {
+			x, f := begun(t, l...)
+			checkErr(t, "Add", x.Add(c), api.OK)
+			checkLost(t, f, api.ErrBroke)
+			crash(t, f)
+			checkLines(t, f, 0, l...)
+		}
 	}
 }
 

@@ -40,7 +40,7 @@ func read(text string) (l []string, changes int, ok bool) {
 	if len(payloads) == 0 {
 		return nil, 0, false
 	}
-	first, ok := getList(payloads[0], ofLines)
+	first, ok := getLines(payloads[0])
 	if !ok {
 		return nil, 0, false
 	}
@@ -52,12 +52,32 @@ func read(text string) (l []string, changes int, ok bool) {
 		}
 		all = append(all, change...)
 	}
-	// All at once, so that lines that no splice touches are not checked again and again.
-	l, e := splices.All(first, all)
-	if e != api.OK {
+	l, ok = leadOn(first, all)
+	if !ok {
 		return nil, 0, false
 	}
 	return l, len(payloads) - 1, true
+}
+
+// leadOn is what comes of lines by the splices of all changes; false, if these do not lead on.
+func leadOn(l []string, all []api.Splice) ([]string, bool) {
+	// A journal may begin with longer lines, or more, than a buffer takes: no splice leads on from these, but without one they stand.
+	if len(all) == 0 {
+		return l, true
+	}
+	// All at once, so that lines that no splice touches are not checked again and again.
+	l, e := splices.All(l, all)
+	return l, e == api.OK
+}
+
+// getLines is the lines of which this is the payload.
+func getLines(payload string) ([]string, bool) {
+	l, ok := getList(payload, ofLines)
+	// Around its texts a list has no byte 10, so that one of them has what the payload has.
+	if !ok || strings.Contains(payload, "\n") {
+		return nil, false
+	}
+	return l, true
 }
 
 // getChange is the change of which this is the payload.

@@ -110,7 +110,7 @@ func plainRecover(f *files.FS) ([]string, int, api.Errno) {
 	for i, p := range payloads {
 		got, _, ok := nums.GetList(p, 1)
 		if i == 0 {
-			if !ok || p != base(got...) || lines.Check(got) != api.OK {
+			if !ok || p != base(got...) || lines.Check(got) == api.ErrArg {
 				return nil, 0, api.ErrBroke
 			}
 			l = got
@@ -139,13 +139,13 @@ func plainRecover(f *files.FS) ([]string, int, api.Errno) {
 func TestShortFiles(t *testing.T) {
 	splice := putSplice(ins(1, "x"))
 	pool := []string{
-		base(), base("a"), base("a", "b"), base("\n"), "b", base("a") + "0:", "",
+		base(), base("a"), base("a", "b"), base("\n"), base(long(1, 1001)...), "b", base("a") + "0:", "",
 		change(ins(0, "y")), change(ins(1, "x")), change(del(0, 1)), change(del(0, 1), ins(0, "p", "q")), change(del(2, 0), del(1, 1)), change(), "c" + put(splice, splice+"0:"), "d" + put(splice),
 	}
 	for _, payloads := range samples.Lists(pool, 3) {
 		whole := framed(t, payloads...)
 		for _, tail := range []string{"", "1:", "\n"} {
-			f := made(t, 1000, "log", whole+tail)
+			f := made(t, 5000, "log", whole+tail)
 			l, n, e := Recover(f)
 			want, changes, g := plainRecover(f)
 			if !slices.Equal(l, want) || n != changes || e != g {
