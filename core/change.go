@@ -7,6 +7,9 @@ import (
 	"inkhorn/regs"
 )
 
+// mostPieces is in how many pieces a table stands at most while a change is done.
+const mostPieces = 64
+
 // change is a change that has begun.
 type change struct {
 	ahead   moment     // as the buffer stood ahead of it
@@ -37,6 +40,10 @@ func (c *Core) Splice(s api.Splice) api.Errno {
 	behind, e := c.behind(s)
 	if e != api.OK {
 		return e
+	}
+	// In many pieces each splice to come would take longer.
+	if behind.table.Pieces() > mostPieces {
+		behind.table = behind.table.Compact()
 	}
 	c.moment = behind
 	s.Ins = slices.Clone(s.Ins)

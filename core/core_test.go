@@ -751,3 +751,30 @@ func TestPiecesStayFew(t *testing.T) {
 		t.Errorf("%d pieces", n)
 	}
 }
+
+// P19.4, P19.5: in a change of many splices a table stands in few pieces, and they lead where they ought to.
+func TestPiecesStayFewInAChange(t *testing.T) {
+	for _, abort := range []bool{false, true} {
+		c := made(t, many(500, "a")...)
+		begin(t, c)
+		for i := range 250 {
+			splice(t, c, api.Splice{At: 3 * i, Del: 1, Ins: []string{"x", "y"}})
+			if n := c.table.Pieces(); n > mostPieces {
+				t.Fatalf("%d pieces", n)
+			}
+		}
+		behind := slices.Repeat([]string{"x", "y", "a"}, 250)
+		checkLines(t, c, behind...)
+		if abort {
+			c.Abort()
+			checkLines(t, c, many(500, "a")...)
+			continue
+		}
+		if n := len(c.End()); n != 250 {
+			t.Error(n)
+		}
+		checkLines(t, c, behind...)
+		undo(t, c)
+		checkLines(t, c, many(500, "a")...)
+	}
+}
